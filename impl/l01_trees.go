@@ -23,6 +23,10 @@ func isNode(node int64) bool {
 	return node >= 1 && node <= Nodes
 }
 
+func isLeaf(node int64) bool {
+	return node >= Leaves && node <= Nodes
+}
+
 func (t tree) up(node int64) iter.Seq[int64] {
 	return func(yield func(int64) bool) {
 		if !isNode(node) {

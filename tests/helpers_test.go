@@ -65,3 +65,10 @@ func roomy[T any](l []T, filler T) []T {
 func whole[T any](l []T) []T {
 	return slices.Clone(l[:cap(l)])
 }
+
+// spoil writes over a list and the room behind it: whoever shares it shows that.
+func spoil[T any](l []T, filler T) {
+	for i := range l[:cap(l)] {
+		l[:cap(l)][i] = filler
+	}
+}
