@@ -3,6 +3,7 @@ package tests
 import (
 	"bytes"
 	"go/ast"
+	"go/build"
 	"go/format"
 	"go/parser"
 	"go/token"
@@ -45,6 +46,25 @@ func TestProgramKeepsToItsLanguage(t *testing.T) {
 		for _, d := range f.Decls {
 			if fn, ok := d.(*ast.FuncDecl); ok && places.Position(fn.End()).Line-places.Position(fn.Pos()).Line > 60 {
 				t.Errorf("%s: %s is longer than 60 lines", name, fn.Name.Name)
+			}
+		}
+	}
+}
+
+// A file whose name ends in a system's (such as _windows_test.go) is left out without a word, and all its tests with it.
+func TestEveryFileIsBuilt(t *testing.T) {
+	for _, folder := range []string{"../impl", "."} {
+		names, err := filepath.Glob(filepath.Join(folder, "*.go"))
+		if err != nil || len(names) == 0 {
+			t.Fatal("no files", err)
+		}
+		for _, name := range names {
+			for _, system := range []string{"linux", "plan9"} {
+				there := build.Default
+				there.GOOS = system
+				if built, err := there.MatchFile(folder, filepath.Base(name)); err != nil || !built {
+					t.Errorf("%s is left out on %s: %v", name, system, err)
+				}
 			}
 		}
 	}
